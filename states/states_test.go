@@ -203,8 +203,8 @@ func TestTakes(t *testing.T) {
 			t.Fatalf("%v: %d", re, e)
 		}
 		n++
-		if nest, _ := nestOf(re); len(nest.places) > 64 {
-			t.Fatalf("%d places", len(nest.places))
+		if n := len(nestOf(re).places); n > 64 {
+			t.Fatalf("%d places", n)
 		}
 		leastMachine(t, d)
 		var sets []api.Class
