@@ -8,22 +8,9 @@ import (
 
 	"galley/api"
 	"galley/class"
-	"galley/syntax"
+	"galley/derive"
 	"galley/words"
 )
-
-func tree(t *testing.T, ere bool, s string) []api.Node {
-	t.Helper()
-	var l []api.Mark
-	for _, b := range []byte(s) {
-		l = append(l, api.Mark{Byte: b})
-	}
-	re, e, _ := syntax.Parse(ere, l)
-	if e != api.OK {
-		t.Fatalf("%s: %d", s, e)
-	}
-	return re
-}
 
 func line(n int) api.Addr            { return api.Addr{Kind: api.AddrLine, N: n} }
 func regexOf(re []api.Node) api.Addr { return api.Addr{Kind: api.AddrRegex, Re: re} }
@@ -40,7 +27,7 @@ func TestParse(t *testing.T) {
 		at   int
 	}{
 		{"12,$p", false, line(12), 2}, {"$p", false, last, 1}, {"p", false, api.Addr{}, 0}, {"", false, api.Addr{}, 0}, {`/a\/b/p`, false, regexOf(aslashb), 6}, {`\,a/b,p`, false, regexOf(aslashb), 6}, {"//p", false, regexOf(nil), 2}, {`\xxp`, false, regexOf(nil), 3}, {"2147483647p", false, line(2147483647), 10}, {"007", false, line(7), 3}, {" 1", false, api.Addr{}, 0}, {"!p", false, api.Addr{}, 0}, {"\x00", false, api.Addr{}, 0},
-		{"/a|b/", true, regexOf(tree(t, true, "a|b")), 5}, {`\|a\|b|`, true, regexOf([]api.Node{{Op: api.OpCat, Kids: 3}, {Op: api.OpSet, Set: class.Of('a')}, {Op: api.OpSet, Set: class.Of('|')}, {Op: api.OpSet, Set: class.Of('b')}}), 7}, {`/a*/,`, false, regexOf(tree(t, false, "a*")), 4},
+		{"/a|b/", true, regexOf(derive.Tree(true, "a|b")), 5}, {`\|a\|b|`, true, regexOf([]api.Node{{Op: api.OpCat, Kids: 3}, {Op: api.OpSet, Set: class.Of('a')}, {Op: api.OpSet, Set: class.Of('|')}, {Op: api.OpSet, Set: class.Of('b')}}), 7}, {`/a*/,`, false, regexOf(derive.Tree(false, "a*")), 4},
 	} {
 		w := words.New([]byte(c.text))
 		a, e := Parse(w, c.ere)
@@ -70,8 +57,8 @@ func TestParse(t *testing.T) {
 
 // P20.2
 func TestPrint(t *testing.T) {
-	alt := tree(t, true, "a|b")
-	slash := tree(t, false, "a/")
+	alt := derive.Tree(true, "a|b")
+	slash := derive.Tree(false, "a/")
 	for _, c := range []struct {
 		a    api.Addr
 		ere  bool
@@ -162,8 +149,8 @@ func TestTakes(t *testing.T) {
 
 // P20.4: when a regex is asked, and of what.
 func TestHits(t *testing.T) {
-	re := tree(t, false, "ab")
-	other := tree(t, false, "c")
+	re := derive.Tree(false, "ab")
+	other := derive.Tree(false, "c")
 	g, _ := New(1)
 	var asked []api.Addr
 	hits := func(a api.Addr) bool {
@@ -178,7 +165,7 @@ func TestHits(t *testing.T) {
 	g.Takes(0, c, 2, true, hits)
 	g.Takes(0, api.Cmd{B: regexOf(re)}, 3, true, hits)
 	g.Takes(0, api.Cmd{A: line(1), B: regexOf(re)}, 3, true, hits)
-	if want := []api.Addr{regexOf(tree(t, false, "ab")), regexOf(tree(t, false, "c"))}; !reflect.DeepEqual(asked, want) || !slices.Equal(re, want[0].Re) {
+	if want := []api.Addr{regexOf(derive.Tree(false, "ab")), regexOf(derive.Tree(false, "c"))}; !reflect.DeepEqual(asked, want) || !slices.Equal(re, want[0].Re) {
 		t.Errorf("%v", asked)
 	}
 }

@@ -11,30 +11,9 @@ import (
 	"galley/capture"
 	"galley/class"
 	"galley/derive"
+	"galley/sample"
 	"galley/syntax"
 )
-
-func tree(t *testing.T, ere bool, s string) []api.Node {
-	t.Helper()
-	var l []api.Mark
-	for _, b := range []byte(s) {
-		l = append(l, api.Mark{Byte: b})
-	}
-	re, e, _ := syntax.Parse(ere, l)
-	if e != api.OK {
-		t.Fatalf("%s: %d", s, e)
-	}
-	return re
-}
-
-// spans of from and to, one behind the other.
-func spans(l ...int) []api.Span {
-	var out []api.Span
-	for i := 0; i < len(l); i += 2 {
-		out = append(out, api.Span{From: l[i], To: l[i+1]})
-	}
-	return out
-}
 
 // P11.1
 func TestFind(t *testing.T) {
@@ -43,18 +22,18 @@ func TestFind(t *testing.T) {
 		from     int
 		want     []api.Span
 	}{
-		{`\(a*\)b\1`, "aabaa", 0, spans(0, 5, 0, 2)}, {`\(a*\)b\1`, "aaba", 0, spans(1, 4, 1, 2)}, {`\(.*\)\1`, "abab", 0, spans(0, 4, 0, 2)}, {`\(.*\)\1`, "aba", 0, spans(0, 0, 0, 0)},
-		{`\(\(a\)\{0,1\}b\)*\2`, "aba", 0, spans(0, 3, 0, 2, 0, 1)}, {`\(\(a\)\{0,1\}b\)*\2`, "abb", 0, nil}, {`\(a\)*\1`, "aaa", 0, spans(0, 3, 1, 2)}, {`\(a\)*\1`, "b", 0, nil},
-		{`\(.\)\1`, "abccdd", 0, spans(2, 4, 2, 3)}, {`\(.\)\1`, "abccdd", 3, spans(4, 6, 4, 5)}, {`\(.\)\1`, "abccdd", 5, nil}, {`^\(.*\)x\1$`, "abxab", 0, spans(0, 5, 0, 2)}, {`\(a\)\(b\)\2\1`, "abba", 0, spans(0, 4, 0, 1, 1, 2)},
-		{`\(a*\)*\1`, "aa", 0, spans(0, 2, 0, 1)}, {`\(a*\)\{2\}\1`, "aaa", 0, spans(0, 3, 3, 3)}, {`\(a\)\{0\}b\1`, "b", 0, nil}, {`\(\)\1\1`, "a", 1, spans(1, 1, 1, 1)}, {`a*`, "baa", 0, spans(0, 0)}, {`\(a\)\1\{2,3\}`, "aaaaa", 0, spans(0, 4, 0, 1)},
+		{`\(a*\)b\1`, "aabaa", 0, sample.Spans(0, 5, 0, 2)}, {`\(a*\)b\1`, "aaba", 0, sample.Spans(1, 4, 1, 2)}, {`\(.*\)\1`, "abab", 0, sample.Spans(0, 4, 0, 2)}, {`\(.*\)\1`, "aba", 0, sample.Spans(0, 0, 0, 0)},
+		{`\(\(a\)\{0,1\}b\)*\2`, "aba", 0, sample.Spans(0, 3, 0, 2, 0, 1)}, {`\(\(a\)\{0,1\}b\)*\2`, "abb", 0, nil}, {`\(a\)*\1`, "aaa", 0, sample.Spans(0, 3, 1, 2)}, {`\(a\)*\1`, "b", 0, nil},
+		{`\(.\)\1`, "abccdd", 0, sample.Spans(2, 4, 2, 3)}, {`\(.\)\1`, "abccdd", 3, sample.Spans(4, 6, 4, 5)}, {`\(.\)\1`, "abccdd", 5, nil}, {`^\(.*\)x\1$`, "abxab", 0, sample.Spans(0, 5, 0, 2)}, {`\(a\)\(b\)\2\1`, "abba", 0, sample.Spans(0, 4, 0, 1, 1, 2)},
+		{`\(a*\)*\1`, "aa", 0, sample.Spans(0, 2, 0, 1)}, {`\(a*\)\{2\}\1`, "aaa", 0, sample.Spans(0, 3, 3, 3)}, {`\(a\)\{0\}b\1`, "b", 0, nil}, {`\(\)\1\1`, "a", 1, sample.Spans(1, 1, 1, 1)}, {`a*`, "baa", 0, sample.Spans(0, 0)}, {`\(a\)\1\{2,3\}`, "aaaaa", 0, sample.Spans(0, 4, 0, 1)},
 	} {
-		re := tree(t, false, c.re)
+		re := derive.Tree(false, c.re)
 		got, ok, e := Find(re, []byte(c.text), c.from, Enough(re, len(c.text)))
 		if !slices.Equal(got, c.want) || ok != (c.want != nil) || e != api.OK {
 			t.Errorf("%s in %q from %d: %v %v %d", c.re, c.text, c.from, got, ok, e)
 		}
 	}
-	re := tree(t, false, `\(a\)\1`)
+	re := derive.Tree(false, `\(a\)\1`)
 	for _, c := range []struct {
 		re   []api.Node
 		from int
@@ -76,8 +55,8 @@ func TestEnough(t *testing.T) {
 		n    int
 		want int64
 	}{
-		{tree(t, false, "a"), 0, 64}, {tree(t, false, `\(a\)\1`), 1, 2125764}, {append(deep, api.Node{Op: api.OpSet}), 10, 1 << 62}, {nil, 3, 0}, {tree(t, false, "a"), -1, 0}, {tree(t, false, "a"), 1<<63 - 1, 1 << 62},
-		{tree(t, false, "a"), 1 << 10, 1026 * 1026 * 1026 * 1026 * 1026 * 1026}, {tree(t, false, "a"), 2046, 1 << 62}, {tree(t, false, "a*"), 1446, 1 << 62}, {tree(t, false, `\(a\)\(b\)\1\2\1`), 0, 8 << 14}, {tree(t, false, "a"), 1288, 1290 * 1290 * 1290 * 1290 * 1290 * 1290}, {tree(t, false, "a"), 1290, 1 << 62},
+		{derive.Tree(false, "a"), 0, 64}, {derive.Tree(false, `\(a\)\1`), 1, 2125764}, {append(deep, api.Node{Op: api.OpSet}), 10, 1 << 62}, {nil, 3, 0}, {derive.Tree(false, "a"), -1, 0}, {derive.Tree(false, "a"), 1<<63 - 1, 1 << 62},
+		{derive.Tree(false, "a"), 1 << 10, 1026 * 1026 * 1026 * 1026 * 1026 * 1026}, {derive.Tree(false, "a"), 2046, 1 << 62}, {derive.Tree(false, "a*"), 1446, 1 << 62}, {derive.Tree(false, `\(a\)\(b\)\1\2\1`), 0, 8 << 14}, {derive.Tree(false, "a"), 1288, 1290 * 1290 * 1290 * 1290 * 1290 * 1290}, {derive.Tree(false, "a"), 1290, 1 << 62},
 	} {
 		if got := Enough(c.re, c.n); got != c.want {
 			t.Errorf("%d: %d, not %d", i, got, c.want)
@@ -174,7 +153,7 @@ func TestMany(t *testing.T) {
 		re = append(re, api.Node{Op: api.OpRef, N: 20 - i})
 	}
 	text := []byte("xabcdefghijklmnopqrsttsrqponmlkjihgfedcba")
-	want := spans(1, 41)
+	want := sample.Spans(1, 41)
 	for i := range 20 {
 		want = append(want, api.Span{From: 1 + i, To: 2 + i})
 	}
@@ -189,7 +168,7 @@ func TestMany(t *testing.T) {
 // What follows: something that stands behind itself once more.
 func TestTwice(t *testing.T) {
 	for _, s := range []string{"a*", "a|ab|b", "[ab]+", "(a|b){2,3}"} {
-		re := tree(t, true, "("+s+")")
+		re := derive.Tree(true, "("+s+")")
 		twice := append([]api.Node{{Op: api.OpCat, Kids: 2}}, re...)
 		twice = append(twice, api.Node{Op: api.OpRef, N: 1})
 		for _, text := range []string{"", "aab", "abab", "babbab", "aaaaa"} {
@@ -197,7 +176,7 @@ func TestTwice(t *testing.T) {
 			for from := 0; from <= len(text) && want == nil; from++ {
 				for k := (len(text) - from) / 2; k >= 0 && want == nil; k-- {
 					if text[from:from+k] == text[from+k:from+2*k] && slices.Contains(derive.Ends(re, []byte(text), from), from+k) {
-						want = spans(from, from+2*k, from, from+k)
+						want = sample.Spans(from, from+2*k, from, from+k)
 					}
 				}
 			}
@@ -213,18 +192,18 @@ func TestTwice(t *testing.T) {
 func TestLong(t *testing.T) {
 	began := time.Now()
 	line := strings.Repeat("some words of a line, ", 20)
-	re := tree(t, false, `^\(.*\)x\1$`)
+	re := derive.Tree(false, `^\(.*\)x\1$`)
 	if got, ok, _ := Find(re, []byte(line+"x"+line), 0, 1<<62); !ok || got[1].To != len(line) {
 		t.Error(got)
 	}
 	if _, ok, _ := Find(re, []byte(line+"x"+line+"y"), 0, 1<<62); ok {
 		t.Error("no match")
 	}
-	re = tree(t, false, `\(a*\)*b\1`)
+	re = derive.Tree(false, `\(a*\)*b\1`)
 	if _, ok, _ := Find(re, []byte(strings.Repeat("a", 60)), 0, 1<<62); ok {
 		t.Error("no match")
 	}
-	re = tree(t, false, `\(.\)\1`)
+	re = derive.Tree(false, `\(.\)\1`)
 	if _, ok, _ := Find(re, []byte(strings.Repeat("ab", 2000)), 0, 1<<62); ok {
 		t.Error("no match")
 	}
@@ -238,14 +217,14 @@ func TestLong(t *testing.T) {
 
 // P11.3
 func TestMemory(t *testing.T) {
-	re := tree(t, false, `\(a\)\1`)
+	re := derive.Tree(false, `\(a\)\1`)
 	text := []byte("xaa")
 	got, _, _ := Find(re, text, 0, 1<<62)
 	got[0] = api.Span{}
-	if again, _, _ := Find(re, text, 0, 1<<62); !slices.Equal(again, spans(1, 3, 1, 2)) || string(text) != "xaa" || !slices.Equal(re, tree(t, false, `\(a\)\1`)) {
+	if again, _, _ := Find(re, text, 0, 1<<62); !slices.Equal(again, sample.Spans(1, 3, 1, 2)) || string(text) != "xaa" || !slices.Equal(re, derive.Tree(false, `\(a\)\1`)) {
 		t.Error("memory")
 	}
-	if _, ok, e := Find(tree(t, false, "a*"), nil, 0, 64*4); !ok || e != api.OK {
+	if _, ok, e := Find(derive.Tree(false, "a*"), nil, 0, 64*4); !ok || e != api.OK {
 		t.Error("R4")
 	}
 }

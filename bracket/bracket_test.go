@@ -6,26 +6,8 @@ import (
 
 	"galley/api"
 	"galley/class"
+	"galley/sample"
 )
-
-func signs(s string) []api.Mark {
-	var l []api.Mark
-	for _, b := range []byte(s) {
-		l = append(l, api.Mark{Byte: b})
-	}
-	return l
-}
-
-func text(l []api.Mark) string {
-	var b []byte
-	for _, m := range l {
-		if m.Plain {
-			return "plain"
-		}
-		b = append(b, m.Byte)
-	}
-	return string(b)
-}
 
 func of(s string) api.Class { return class.Of([]byte(s)...) }
 
@@ -46,7 +28,7 @@ func TestParse(t *testing.T) {
 		{"[a-[.c.]]", of("abc"), 9}, {"[[.a.]-c]", of("abc"), 9}, {"[x-x]", of("x"), 5}, {"[a[]", of("a["), 4}, {"[[]", of("["), 3}, {"[Z-[]", of("Z["), 5}, {"[:a:]", of(":a"), 5}, {"[\x00-\xff]", class.Range(0, 255), 5}, {"[^\x00-\xff]", api.Class{}, 6},
 		{"[aa]]", of("a"), 4}, {"[[.-.]-/]", of("-./"), 9}, {"[+-[.-.]]", of("+,-"), 9},
 	} {
-		set, next, e := Parse(signs("p"+c.in), 1)
+		set, next, e := Parse(sample.Signs("p"+c.in), 1)
 		if set != c.set || next != c.next+1 || e != api.OK {
 			t.Errorf("%s: %v, %d, %d", c.in, class.Runs(set), next, e)
 		}
@@ -66,17 +48,17 @@ func TestFaults(t *testing.T) {
 		{"[[:word:]]", api.ErrClass, 1}, {"[x[.ab.]]", api.ErrClass, 2}, {"[[..]]", api.ErrClass, 1}, {"[a-[:word:]]", api.ErrClass, 3}, {"[[::]]", api.ErrClass, 1}, {"[[:]:]]", api.ErrClass, 1}, {"[[==]]", api.ErrClass, 1}, {"[[=ab", api.ErrClass, 1}, {"[[=a=a", api.ErrClass, 1}, {"[a-[.b.c", api.ErrClass, 3}, {"[[:Digit:]]", api.ErrClass, 1}, {"[[.a=]]", api.ErrClass, 1},
 		{"[", api.ErrBrack, 0}, {"[]", api.ErrBrack, 0}, {"[^]", api.ErrBrack, 0}, {"[^", api.ErrBrack, 0}, {"[a", api.ErrBrack, 0}, {"[a-", api.ErrBrack, 0}, {"[[:digit:]", api.ErrBrack, 0}, {"[[:digit", api.ErrBrack, 0}, {"[[:digit:", api.ErrBrack, 0}, {"[[.a", api.ErrBrack, 0}, {"[[.", api.ErrBrack, 0}, {"[[.a.", api.ErrBrack, 0}, {"[a[=b=", api.ErrBrack, 0}, {"[[", api.ErrBrack, 0}, {"[[:digit:]-", api.ErrBrack, 0}, {"[a-c-", api.ErrBrack, 0}, {"[-", api.ErrBrack, 0}, {"[--", api.ErrBrack, 0}, {"[Z-[", api.ErrBrack, 0}, {"[[:]", api.ErrBrack, 0}, {"[a-[.b", api.ErrBrack, 0}, {"[a-[:digit", api.ErrBrack, 0},
 	} {
-		set, at, e := Parse(signs("p["+c.in), 2)
+		set, at, e := Parse(sample.Signs("p["+c.in), 2)
 		if c.err != api.OK && set != (api.Class{}) || at != c.at+2 || e != c.err {
 			t.Errorf("%s: %d at %d", c.in, e, at)
 		}
 	}
 	for _, at := range []int{-1, 0, 3, 4, 99} {
-		if set, next, e := Parse(signs("x[]"), at); set != (api.Class{}) || next != 0 || e != api.ErrArg {
+		if set, next, e := Parse(sample.Signs("x[]"), at); set != (api.Class{}) || next != 0 || e != api.ErrArg {
 			t.Errorf("at %d: %d, %d", at, next, e)
 		}
 	}
-	l := signs("[a]")
+	l := sample.Signs("[a]")
 	l[0].Plain = true
 	if _, next, e := Parse(l, 0); next != 0 || e != api.ErrArg {
 		t.Error("a plain [")
@@ -121,7 +103,7 @@ func TestPlain(t *testing.T) {
 func TestPrint(t *testing.T) {
 	for want, c := range map[string]api.Class{"[a]": of("a"), "[[.-.]a-c]": of("abc-"), "[^\x00-\x09\x0b-`b-\xff]": of("\na"), "[[.^.]]": of("^"), "[\x00-\xff]": class.Range(0, 255), "[^\x00-\xff]": {},
 		"[^a]": class.Not(of("a")), "[[.[.]-[.^.]]": of(`[\]^`), "[,-[.-.]]": of(",-"), "[^\x00-\x09\x0b-\xff]": of("\n"), "[\x00-\x09\x0b-\xff]": class.Not(of("\n")), "[a-bd]": of("abd")} {
-		if got := text(Print(c)); got != want {
+		if got := sample.Text(Print(c)); got != want {
 			t.Errorf("%q, not %q", got, want)
 		}
 	}
@@ -134,13 +116,13 @@ func TestBack(t *testing.T) {
 		l := Print(c)
 		for _, m := range l {
 			if m.Plain || m.Byte == '\n' {
-				t.Fatalf("%q", text(l))
+				t.Fatalf("%q", sample.Text(l))
 			}
 		}
 		for _, behind := range []string{"", "]", "-]", "x", "[:"} {
-			set, next, e := Parse(append(Print(c), signs(behind)...), 0)
+			set, next, e := Parse(append(Print(c), sample.Signs(behind)...), 0)
 			if set != c || next != len(l) || e != api.OK {
-				t.Fatalf("%q: %v, %d, %d", text(l), class.Runs(set), next, e)
+				t.Fatalf("%q: %v, %d, %d", sample.Text(l), class.Runs(set), next, e)
 			}
 		}
 	}
@@ -171,7 +153,7 @@ func TestBeginnings(t *testing.T) {
 		for range 1 + r.Intn(9) {
 			s += []string{"a", "b", "-", "]", "^", "[", "[.", ".]", "[:digit:]", "[=", "=]", ":"}[r.Intn(12)]
 		}
-		l := signs(s)
+		l := sample.Signs(s)
 		_, next, e := Parse(l, 0)
 		if e != api.OK {
 			continue
@@ -191,15 +173,15 @@ func TestBeginnings(t *testing.T) {
 
 // R5
 func TestUnchanged(t *testing.T) {
-	l := append(make([]api.Mark, 0, 30), signs("[a-c]")...)
-	before := text(l[:30])
+	l := append(make([]api.Mark, 0, 30), sample.Signs("[a-c]")...)
+	before := sample.Text(l[:30])
 	Parse(l, 0)
-	if text(l[:30]) != before {
+	if sample.Text(l[:30]) != before {
 		t.Error("changed")
 	}
 	a, b := Print(of("a")), Print(of("a"))
 	a[0].Byte = 'x'
-	if text(b) != "[a]" {
+	if sample.Text(b) != "[a]" {
 		t.Error("shared")
 	}
 }

@@ -10,30 +10,9 @@ import (
 	"galley/api"
 	"galley/class"
 	"galley/derive"
+	"galley/sample"
 	"galley/syntax"
 )
-
-func tree(t *testing.T, ere bool, s string) []api.Node {
-	t.Helper()
-	var l []api.Mark
-	for _, b := range []byte(s) {
-		l = append(l, api.Mark{Byte: b})
-	}
-	re, e, _ := syntax.Parse(ere, l)
-	if e != api.OK {
-		t.Fatalf("%s: %d", s, e)
-	}
-	return re
-}
-
-// spans of from and to, one behind the other.
-func spans(l ...int) []api.Span {
-	var out []api.Span
-	for i := 0; i < len(l); i += 2 {
-		out = append(out, api.Span{From: l[i], To: l[i+1]})
-	}
-	return out
-}
 
 // P10.2
 func TestFind(t *testing.T) {
@@ -42,16 +21,16 @@ func TestFind(t *testing.T) {
 		from     int
 		want     []api.Span
 	}{
-		{"(a|ab)(c|bcd)(d*)", "abcd", 0, spans(0, 4, 0, 2, 2, 3, 3, 4)}, {"(a|ab)*", "aba", 0, spans(0, 3, 2, 3)}, {"((a)|b)*", "ab", 0, spans(0, 2, 1, 2, -1, -1)}, {"(a*)*", "b", 0, spans(0, 0, 0, 0)}, {"(a*)+", "aa", 0, spans(0, 2, 0, 2)}, {"(a*){2}", "aa", 0, spans(0, 2, 2, 2)},
-		{"x*", "abc", 1, spans(1, 1)}, {"b|c", "abc", 0, spans(1, 2)}, {"^b", "abc", 0, nil}, {"c$", "abc", 0, spans(2, 3)}, {"(a?)(ab)?", "ab", 0, spans(0, 2, 0, 0, 0, 2)}, {"(a?)(ab)?b?", "ab", 0, spans(0, 2, 0, 1, -1, -1)},
-		{"a", "abab", 5, nil}, {"a", "abab", -1, nil}, {"a*", "abab", 4, spans(4, 4)}, {"^a", "aa", 1, nil}, {"(b)|a", "ab", 0, spans(0, 1, -1, -1)}, {"()", "", 0, spans(0, 0, 0, 0)}, {"(a){0}", "a", 0, spans(0, 0, -1, -1)}, {"(a|b){0,2}", "abb", 0, spans(0, 2, 1, 2)},
+		{"(a|ab)(c|bcd)(d*)", "abcd", 0, sample.Spans(0, 4, 0, 2, 2, 3, 3, 4)}, {"(a|ab)*", "aba", 0, sample.Spans(0, 3, 2, 3)}, {"((a)|b)*", "ab", 0, sample.Spans(0, 2, 1, 2, -1, -1)}, {"(a*)*", "b", 0, sample.Spans(0, 0, 0, 0)}, {"(a*)+", "aa", 0, sample.Spans(0, 2, 0, 2)}, {"(a*){2}", "aa", 0, sample.Spans(0, 2, 2, 2)},
+		{"x*", "abc", 1, sample.Spans(1, 1)}, {"b|c", "abc", 0, sample.Spans(1, 2)}, {"^b", "abc", 0, nil}, {"c$", "abc", 0, sample.Spans(2, 3)}, {"(a?)(ab)?", "ab", 0, sample.Spans(0, 2, 0, 0, 0, 2)}, {"(a?)(ab)?b?", "ab", 0, sample.Spans(0, 2, 0, 1, -1, -1)},
+		{"a", "abab", 5, nil}, {"a", "abab", -1, nil}, {"a*", "abab", 4, sample.Spans(4, 4)}, {"^a", "aa", 1, nil}, {"(b)|a", "ab", 0, sample.Spans(0, 1, -1, -1)}, {"()", "", 0, sample.Spans(0, 0, 0, 0)}, {"(a){0}", "a", 0, sample.Spans(0, 0, -1, -1)}, {"(a|b){0,2}", "abb", 0, sample.Spans(0, 2, 1, 2)},
 	} {
-		got, ok := Find(tree(t, true, c.re), []byte(c.text), c.from)
+		got, ok := Find(derive.Tree(true, c.re), []byte(c.text), c.from)
 		if !slices.Equal(got, c.want) || ok != (c.want != nil) {
 			t.Errorf("%s in %q from %d: %v %v", c.re, c.text, c.from, got, ok)
 		}
 	}
-	for _, re := range [][]api.Node{nil, {{Op: api.OpBegin}, {Op: api.OpBegin}}, tree(t, false, `\(a\)\1`)} {
+	for _, re := range [][]api.Node{nil, {{Op: api.OpBegin}, {Op: api.OpBegin}}, derive.Tree(false, `\(a\)\1`)} {
 		if got, ok := Find(re, []byte("aa"), 0); got != nil || ok {
 			t.Error("no regex")
 		}
@@ -63,20 +42,20 @@ func TestFind(t *testing.T) {
 
 // P10.1
 func TestBest(t *testing.T) {
-	re := tree(t, true, "(a|b)*")
+	re := derive.Tree(true, "(a|b)*")
 	text := []byte("abab")
-	if got, ok := Best(re, text, api.Span{From: 1, To: 3}); !ok || !slices.Equal(got, spans(1, 3, 2, 3)) {
+	if got, ok := Best(re, text, api.Span{From: 1, To: 3}); !ok || !slices.Equal(got, sample.Spans(1, 3, 2, 3)) {
 		t.Error(got)
 	}
-	for _, s := range spans(3, 1, 0, 5, -1, 2, 5, 5, -2, -1, -1, -1) {
+	for _, s := range sample.Spans(3, 1, 0, 5, -1, 2, 5, 5, -2, -1, -1, -1) {
 		if got, ok := Best(re, text, s); got != nil || ok {
 			t.Errorf("%v: %v", s, got)
 		}
 	}
-	if got, ok := Best(tree(t, true, "a"), text, api.Span{From: 0, To: 2}); got != nil || ok {
+	if got, ok := Best(derive.Tree(true, "a"), text, api.Span{From: 0, To: 2}); got != nil || ok {
 		t.Error(got)
 	}
-	if got, ok := Best(tree(t, true, "(a)|b"), text, api.Span{From: 1, To: 2}); !ok || !slices.Equal(got, spans(1, 2, -1, -1)) {
+	if got, ok := Best(derive.Tree(true, "(a)|b"), text, api.Span{From: 1, To: 2}); !ok || !slices.Equal(got, sample.Spans(1, 2, -1, -1)) {
 		t.Error(got)
 	}
 }
@@ -143,13 +122,13 @@ func TestLong(t *testing.T) {
 	n := 1 << 18
 	text := []byte(strings.Repeat("ab,", n/3))
 	for s, want := range map[string][]api.Span{
-		"(.*)":          spans(0, len(text), 0, len(text)),
-		"(.)*":          spans(0, len(text), len(text)-1, len(text)),
-		"(.*),(.*)":     spans(0, len(text), 0, len(text)-1, len(text), len(text)),
-		"(([^,]*),)*":   spans(0, len(text), len(text)-3, len(text), len(text)-3, len(text)-1),
-		"(a|ab)(,a|b)*": spans(0, len(text)-1, 0, 2, len(text)-2, len(text)-1),
+		"(.*)":          sample.Spans(0, len(text), 0, len(text)),
+		"(.)*":          sample.Spans(0, len(text), len(text)-1, len(text)),
+		"(.*),(.*)":     sample.Spans(0, len(text), 0, len(text)-1, len(text), len(text)),
+		"(([^,]*),)*":   sample.Spans(0, len(text), len(text)-3, len(text), len(text)-3, len(text)-1),
+		"(a|ab)(,a|b)*": sample.Spans(0, len(text)-1, 0, 2, len(text)-2, len(text)-1),
 	} {
-		if got, ok := Find(tree(t, true, s), text, 0); !ok || !slices.Equal(got, want) {
+		if got, ok := Find(derive.Tree(true, s), text, 0); !ok || !slices.Equal(got, want) {
 			t.Errorf("%s: %v", s, got)
 		}
 	}
@@ -157,11 +136,11 @@ func TestLong(t *testing.T) {
 
 // R4, R5
 func TestMemory(t *testing.T) {
-	re := tree(t, true, "(a)b")
+	re := derive.Tree(true, "(a)b")
 	text := []byte("xab")
 	got, _ := Find(re, text, 0)
 	got[0] = api.Span{}
-	if again, _ := Find(re, text, 0); !slices.Equal(again, spans(1, 3, 1, 2)) || !bytes.Equal(text, []byte("xab")) || !slices.Equal(re, tree(t, true, "(a)b")) {
+	if again, _ := Find(re, text, 0); !slices.Equal(again, sample.Spans(1, 3, 1, 2)) || !bytes.Equal(text, []byte("xab")) || !slices.Equal(re, derive.Tree(true, "(a)b")) {
 		t.Error("memory")
 	}
 }

@@ -11,19 +11,12 @@ import (
 	"galley/api"
 	"galley/fill"
 	"galley/regex"
+	"galley/sample"
 )
-
-func signs(s string) []api.Mark {
-	var l []api.Mark
-	for _, b := range []byte(s) {
-		l = append(l, api.Mark{Byte: b})
-	}
-	return l
-}
 
 func find(t *testing.T, s string) *regex.Regex {
 	t.Helper()
-	r, e, _ := regex.Compile(false, signs(s))
+	r, e, _ := regex.Compile(false, sample.Signs(s))
 	if e != api.OK {
 		t.Fatalf("%s: %d", s, e)
 	}
@@ -31,17 +24,8 @@ func find(t *testing.T, s string) *regex.Regex {
 }
 
 func pieces(s string) []api.Piece {
-	p, _, _ := fill.Parse(signs(s))
+	p, _, _ := fill.Parse(sample.Signs(s))
 	return p
-}
-
-// spans of from and to, one behind the other.
-func spans(l ...int) []api.Span {
-	var out []api.Span
-	for i := 0; i < len(l); i += 2 {
-		out = append(out, api.Span{From: l[i], To: l[i+1]})
-	}
-	return out
 }
 
 // row answers by turn, and keeps what it was asked; then it answers no more.
@@ -58,14 +42,14 @@ func (r *row) Find(text []byte, from int) ([]api.Span, bool) {
 		text[:cap(text)][i] = '!'
 	}
 	if len(r.places) > len(r.answers) {
-		return spans(0, 0), false
+		return sample.Spans(0, 0), false
 	}
 	return r.answers[len(r.places)-1], true
 }
 
 // P17.1
 func TestSpans(t *testing.T) {
-	if got := Spans(find(t, "a*"), []byte("baaac")); !reflect.DeepEqual(got, [][]api.Span{spans(0, 0), spans(1, 4), spans(5, 5)}) {
+	if got := Spans(find(t, "a*"), []byte("baaac")); !reflect.DeepEqual(got, [][]api.Span{sample.Spans(0, 0), sample.Spans(1, 4), sample.Spans(5, 5)}) {
 		t.Error(got)
 	}
 	for i, c := range []struct {
@@ -73,10 +57,10 @@ func TestSpans(t *testing.T) {
 		want    [][]api.Span
 		places  []int
 	}{
-		{[][]api.Span{spans(3, 9)}, nil, []int{0}}, {[][]api.Span{spans(2, 1)}, nil, []int{0}}, {[][]api.Span{nil}, nil, []int{0}}, {[][]api.Span{spans(-1, 2)}, nil, []int{0}}, {nil, nil, []int{0}},
-		{[][]api.Span{spans(0, 1, 4, 9)}, [][]api.Span{spans(0, 1, -1, -1)}, []int{0, 1}}, {[][]api.Span{spans(0, 1, -1, -1, 2, 1, -5, 3, 0, 5, 5, 5)}, [][]api.Span{spans(0, 1, -1, -1, -1, -1, -1, -1, 0, 5, 5, 5)}, []int{0, 1}},
-		{[][]api.Span{spans(0, 2), spans(1, 3)}, [][]api.Span{spans(0, 2)}, []int{0, 2}}, {[][]api.Span{spans(0, 2), spans(2, 2), spans(3, 3), spans(3, 3), spans(4, 5)}, [][]api.Span{spans(0, 2), spans(3, 3), spans(4, 5)}, []int{0, 2, 3, 3, 4, 5}},
-		{[][]api.Span{spans(0, 5), spans(5, 5)}, [][]api.Span{spans(0, 5)}, []int{0, 5}}, {[][]api.Span{spans(5, 5), spans(5, 5)}, [][]api.Span{spans(5, 5)}, []int{0, 5}},
+		{[][]api.Span{sample.Spans(3, 9)}, nil, []int{0}}, {[][]api.Span{sample.Spans(2, 1)}, nil, []int{0}}, {[][]api.Span{nil}, nil, []int{0}}, {[][]api.Span{sample.Spans(-1, 2)}, nil, []int{0}}, {nil, nil, []int{0}},
+		{[][]api.Span{sample.Spans(0, 1, 4, 9)}, [][]api.Span{sample.Spans(0, 1, -1, -1)}, []int{0, 1}}, {[][]api.Span{sample.Spans(0, 1, -1, -1, 2, 1, -5, 3, 0, 5, 5, 5)}, [][]api.Span{sample.Spans(0, 1, -1, -1, -1, -1, -1, -1, 0, 5, 5, 5)}, []int{0, 1}},
+		{[][]api.Span{sample.Spans(0, 2), sample.Spans(1, 3)}, [][]api.Span{sample.Spans(0, 2)}, []int{0, 2}}, {[][]api.Span{sample.Spans(0, 2), sample.Spans(2, 2), sample.Spans(3, 3), sample.Spans(3, 3), sample.Spans(4, 5)}, [][]api.Span{sample.Spans(0, 2), sample.Spans(3, 3), sample.Spans(4, 5)}, []int{0, 2, 3, 3, 4, 5}},
+		{[][]api.Span{sample.Spans(0, 5), sample.Spans(5, 5)}, [][]api.Span{sample.Spans(0, 5)}, []int{0, 5}}, {[][]api.Span{sample.Spans(5, 5), sample.Spans(5, 5)}, [][]api.Span{sample.Spans(5, 5)}, []int{0, 5}},
 	} {
 		r := &row{answers: c.answers}
 		text := append(make([]byte, 0, 9), "abcde"...)
@@ -114,15 +98,15 @@ func TestDo(t *testing.T) {
 		}
 	}
 	// Without all no more is asked than is needed; a finder's wrong answers are no matches.
-	r := &row{answers: [][]api.Span{spans(0, 1), spans(1, 2), spans(2, 3)}}
+	r := &row{answers: [][]api.Span{sample.Spans(0, 1), sample.Spans(1, 2), sample.Spans(2, 3)}}
 	if got, n, e := Do(r, pieces("x"), []byte("abcde"), 2, false, 99); string(got) != "axcde" || n != 1 || e != api.OK || !slices.Equal(r.places, []int{0, 1}) {
 		t.Errorf("%q %d %v", got, n, r.places)
 	}
-	r = &row{answers: [][]api.Span{spans(0, 1), spans(1, 2), spans(2, 3)}}
+	r = &row{answers: [][]api.Span{sample.Spans(0, 1), sample.Spans(1, 2), sample.Spans(2, 3)}}
 	if _, _, e := Do(r, pieces("xxxxxx"), []byte("abcde"), 1, true, 5); e != api.ErrSpace || !slices.Equal(r.places, []int{0, 1, 2, 3}) {
 		t.Errorf("%v", r.places)
 	}
-	r = &row{answers: [][]api.Span{spans(0, 1, 3, 9)}}
+	r = &row{answers: [][]api.Span{sample.Spans(0, 1, 3, 9)}}
 	if got, n, _ := Do(r, pieces(`<\1>`), []byte("abcde"), 1, true, 99); string(got) != "<>bcde" || n != 1 {
 		t.Errorf("%q", got)
 	}

@@ -6,7 +6,15 @@ import (
 	"slices"
 
 	"galley/api"
+	"galley/sample"
+	"galley/syntax"
 )
+
+// Tree: the tree of a regex as it is written; none, if it is refused.
+func Tree(ere bool, s string) []api.Node {
+	re, _, _ := syntax.Parse(ere, sample.Signs(s))
+	return re
+}
 
 // tree: a derivation of a node; of an OpAlt side is the kid that is there.
 type tree struct {

@@ -5,7 +5,6 @@ import (
 	"testing"
 
 	"galley/api"
-	"galley/syntax"
 )
 
 // The document's own examples of what a regex means.
@@ -26,12 +25,7 @@ func TestExamples(t *testing.T) {
 		{false, `\(a\)*\1`, "aaa", []api.Span{{From: 0, To: 3}, {From: 1, To: 2}}},
 		{false, `\(a*\)b\1`, "aaba", []api.Span{{From: 1, To: 4}, {From: 1, To: 2}}},
 	} {
-		var l []api.Mark
-		for _, b := range []byte(c.re) {
-			l = append(l, api.Mark{Byte: b})
-		}
-		re, _, _ := syntax.Parse(c.ere, l)
-		got, ok := Find(re, []byte(c.text), 0)
+		got, ok := Find(Tree(c.ere, c.re), []byte(c.text), 0)
 		if !slices.Equal(got, c.want) || ok != (c.want != nil) {
 			t.Errorf("%s in %s: %v", c.re, c.text, got)
 		}

@@ -7,34 +7,11 @@ import (
 	"testing"
 
 	"galley/api"
+	"galley/sample"
 )
-
-// marks: the bytes of s as signs; behind a byte 1 a plain mark.
-func marks(s string) []api.Mark {
-	var l []api.Mark
-	for i := 0; i < len(s); i++ {
-		plain := s[i] == 1
-		if plain {
-			i++
-		}
-		l = append(l, api.Mark{Byte: s[i], Plain: plain})
-	}
-	return l
-}
 
 func text(s string) api.Piece { return api.Piece{Group: -1, Text: []byte(s)} }
 func group(n int) api.Piece   { return api.Piece{Group: n} }
-
-func written2(l []api.Mark) string {
-	var b []byte
-	for _, m := range l {
-		if m.Plain {
-			return "plain"
-		}
-		b = append(b, m.Byte)
-	}
-	return string(b)
-}
 
 func pieces(l ...api.Piece) []api.Piece { return l }
 
@@ -44,12 +21,12 @@ func TestParse(t *testing.T) {
 		"a&b": pieces(text("a"), group(0), text("b")), `\1\n\&\\`: pieces(group(1), text("\n&\\")), `\0`: pieces(text("0")), "": nil, "\x01&": pieces(text("&")), "\\\x011": pieces(text("1")), "\x01\\1": pieces(text(`\1`)), "\\\x01n": pieces(text("n")),
 		`\9&&\2`: pieces(group(9), group(0), group(0), group(2)), "a\\\nb": pieces(text("a\nb")), `\a\/`: pieces(text("a/")), `\\1`: pieces(text(`\1`)), "\n": pieces(text("\n")), "\\\x01&": pieces(text("&")), "\\\x01\\a": pieces(text("\\a")),
 	} {
-		if got, e, at := Parse(marks(in)); !reflect.DeepEqual(got, want) || e != api.OK || at != 0 {
+		if got, e, at := Parse(sample.Marks(in)); !reflect.DeepEqual(got, want) || e != api.OK || at != 0 {
 			t.Errorf("%q: %v %d %d", in, got, e, at)
 		}
 	}
 	for in, want := range map[string]int{`x\`: 1, `\`: 0, `\\\`: 2, "\x01a&\\": 2} {
-		if got, e, at := Parse(marks(in)); got != nil || e != api.ErrFill || at != want {
+		if got, e, at := Parse(sample.Marks(in)); got != nil || e != api.ErrFill || at != want {
 			t.Errorf("%q: %d at %d", in, e, at)
 		}
 	}
@@ -77,8 +54,8 @@ func TestMost(t *testing.T) {
 // P16.3
 func TestPrint(t *testing.T) {
 	l, e := Print(pieces(text("a\n&"), group(3), group(0), text(`\/1`)))
-	if e != api.OK || written2(l) != `a\n\&\3&\\/1` {
-		t.Errorf("%q %d", written2(l), e)
+	if e != api.OK || sample.Text(l) != `a\n\&\3&\\/1` {
+		t.Errorf("%q %d", sample.Text(l), e)
 	}
 	if l, e := Print(nil); l != nil || e != api.OK {
 		t.Error("nothing")
@@ -87,7 +64,7 @@ func TestPrint(t *testing.T) {
 
 // P16.4, P16.5
 func TestExpand(t *testing.T) {
-	p, _, _ := Parse(marks(`<\1|\2>&`))
+	p, _, _ := Parse(sample.Marks(`<\1|\2>&`))
 	span := func(l ...int) []api.Span {
 		var out []api.Span
 		for i := 0; i < len(l); i += 2 {
@@ -127,8 +104,8 @@ func TestBack(t *testing.T) {
 		}
 		l, e := Print(p)
 		back, e2, _ := Parse(l)
-		if e != api.OK || e2 != api.OK || !reflect.DeepEqual(back, p) || strings.Contains(written2(l), "\n") {
-			t.Fatalf("%v: %q: %v", p, written2(l), back)
+		if e != api.OK || e2 != api.OK || !reflect.DeepEqual(back, p) || strings.Contains(sample.Text(l), "\n") {
+			t.Fatalf("%v: %q: %v", p, sample.Text(l), back)
 		}
 		in := []byte("abcdefgh")
 		var spans []api.Span
@@ -167,7 +144,7 @@ func TestMemory(t *testing.T) {
 	if string(in) != "abcd" || string(p[0].Text) != "x" {
 		t.Error("shared")
 	}
-	q, _, _ := Parse(marks("ab&cd"))
+	q, _, _ := Parse(sample.Marks("ab&cd"))
 	q[0].Text = append(q[0].Text, "zzz"...)
 	if string(q[2].Text) != "cd" {
 		t.Error("shared")

@@ -9,8 +9,8 @@ import (
 
 	"galley/api"
 	"galley/class"
+	"galley/derive"
 	"galley/machine"
-	"galley/syntax"
 )
 
 func search(t *testing.T, m ...api.Instr) *Search {
@@ -195,12 +195,7 @@ func TestRuns(t *testing.T) {
 
 // P8.4, and the stamps are gone through more than once.
 func TestLong(t *testing.T) {
-	var l []api.Mark
-	for _, b := range []byte("(x+x+)+y") {
-		l = append(l, api.Mark{Byte: b})
-	}
-	re, _, _ := syntax.Parse(true, l)
-	m, _ := machine.Compile(re)
+	m, _ := machine.Compile(derive.Tree(true, "(x+x+)+y"))
 	s := search(t, m...)
 	text := []byte(strings.Repeat("x", 200000))
 	if _, ok := s.Find(text, 0); ok {

@@ -12,19 +12,6 @@ import (
 	"galley/syntax"
 )
 
-func tree(t *testing.T, ere bool, s string) []api.Node {
-	t.Helper()
-	var l []api.Mark
-	for _, b := range []byte(s) {
-		l = append(l, api.Mark{Byte: b})
-	}
-	re, e, _ := syntax.Parse(ere, l)
-	if e != api.OK {
-		t.Fatalf("%s: %d", s, e)
-	}
-	return re
-}
-
 // ends: where the runs of a machine from a place on come to an InDone.
 func ends(m []api.Instr, text []byte, from int) []int {
 	type spot struct{ i, p int }
@@ -83,7 +70,7 @@ func check(t *testing.T, re []api.Node, texts ...string) {
 // P7.1
 func TestCompile(t *testing.T) {
 	for _, s := range []string{"a", "a*", "(a*)*", "a|b", "ab|ba|a", "(a|ab)(c|bcd)?", "()", "()*", "()+", "a{0}", "a{2}", "a{2,}", "a{1,3}", "a+", "(a|b*)+b", "^a$", "a^b", "(^|a)b", "(a$|a)*"} {
-		check(t, tree(t, true, s), "", "a", "b", "aab", "abba", "baaa")
+		check(t, derive.Tree(true, s), "", "a", "b", "aab", "abba", "baaa")
 	}
 	// A round may take nothing, and an anchor may be repeated.
 	begin := api.Node{Op: api.OpBegin}
@@ -97,7 +84,7 @@ func TestCompile(t *testing.T) {
 	if m, e := Compile([]api.Node{begin, begin}); m != nil || e != api.ErrShape {
 		t.Error("two trees")
 	}
-	if m, e := Compile(tree(t, false, `\(a\)\1`)); m != nil || e != api.ErrRef {
+	if m, e := Compile(derive.Tree(false, `\(a\)\1`)); m != nil || e != api.ErrRef {
 		t.Error("a reference")
 	}
 	if m, e := Compile([]api.Node{{Op: api.OpCat, Kids: 2}, {Op: api.OpRef, N: 1}, {Op: api.OpGroup, N: 1, Kids: 1}, begin}); m != nil || e != api.ErrShape {
@@ -141,8 +128,8 @@ func TestMeans(t *testing.T) {
 // P7.1: the heaviest regexes.
 func TestHeavy(t *testing.T) {
 	heavy := func(s string) {
-		m, e := Compile(tree(t, true, s))
-		if w := syntax.Weight(tree(t, true, s)); e != api.OK || !Shaped(m) || len(m) > 4*w+4 {
+		m, e := Compile(derive.Tree(true, s))
+		if w := syntax.Weight(derive.Tree(true, s)); e != api.OK || !Shaped(m) || len(m) > 4*w+4 {
 			t.Errorf("%s: %d instructions, %d", s, len(m), w)
 		}
 	}
@@ -178,12 +165,12 @@ func TestShaped(t *testing.T) {
 
 // R5
 func TestMemory(t *testing.T) {
-	re := tree(t, true, "(a|b)*c")
+	re := derive.Tree(true, "(a|b)*c")
 	m, _ := Compile(re)
 	before := slices.Clone(m)
 	m2, _ := Compile(re)
 	m2[0] = api.Instr{}
-	if !slices.Equal(m, before) || !slices.Equal(re, tree(t, true, "(a|b)*c")) {
+	if !slices.Equal(m, before) || !slices.Equal(re, derive.Tree(true, "(a|b)*c")) {
 		t.Error("memory")
 	}
 }

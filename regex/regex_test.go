@@ -13,33 +13,17 @@ import (
 	"galley/derive"
 	"galley/longest"
 	"galley/machine"
+	"galley/sample"
 	"galley/syntax"
 )
 
-func signs(s string) []api.Mark {
-	var l []api.Mark
-	for _, b := range []byte(s) {
-		l = append(l, api.Mark{Byte: b})
-	}
-	return l
-}
-
 func compiled(t *testing.T, ere bool, s string) *Regex {
 	t.Helper()
-	r, e, at := Compile(ere, signs(s))
+	r, e, at := Compile(ere, sample.Signs(s))
 	if e != api.OK || at != 0 {
 		t.Fatalf("%s: %d at %d", s, e, at)
 	}
 	return r
-}
-
-// spans of from and to, one behind the other.
-func spans(l ...int) []api.Span {
-	var out []api.Span
-	for i := 0; i < len(l); i += 2 {
-		out = append(out, api.Span{From: l[i], To: l[i+1]})
-	}
-	return out
 }
 
 func all(r *Regex, text string) [][]api.Span {
@@ -62,7 +46,7 @@ func TestCompile(t *testing.T) {
 		err api.Errno
 		at  int
 	}{{false, `a\{2`, api.ErrCount, 1}, {false, `\(a`, api.ErrParen, 0}, {false, "", api.ErrEmpty, 0}, {true, "a|", api.ErrEmpty, 2}, {true, "(a{255}){64}", api.ErrWeight, 12}, {false, "x[", api.ErrBrack, 1}, {true, strings.Repeat("a", api.MaxRegex+1), api.ErrSpent, api.MaxRegex}} {
-		if r, e, at := Compile(c.ere, signs(c.s)); r != nil || e != c.err || at != c.at {
+		if r, e, at := Compile(c.ere, sample.Signs(c.s)); r != nil || e != c.err || at != c.at {
 			t.Errorf("%s: %d at %d", c.s, e, at)
 		}
 	}
@@ -73,7 +57,7 @@ func TestCompile(t *testing.T) {
 	}
 	for _, s := range []string{`\(a*\)b`, `\(a\)\(b\)\1`, "x"} {
 		r := compiled(t, false, s)
-		re, _, _ := syntax.Parse(false, signs(s))
+		re, _, _ := syntax.Parse(false, sample.Signs(s))
 		if !slices.Equal(r.Tree(), re) || r.Groups() != syntax.Groups(re) {
 			t.Errorf("%s", s)
 		}
@@ -98,8 +82,8 @@ func TestFind(t *testing.T) {
 		from     int
 		want     []api.Span
 	}{
-		{false, `\(a*\)b`, "xaab", 0, spans(1, 4, 1, 3)}, {false, `\(a*\)b`, "xaab", 4, nil}, {false, `\(a*\)b`, "xaab", 5, nil}, {false, `\(a*\)b`, "xaab", -1, nil}, {true, "(a|ab)(c|bcd)(d*)", "abcd", 0, spans(0, 4, 0, 2, 2, 3, 3, 4)},
-		{false, `\(a\)\1`, "xaa", 0, spans(1, 3, 1, 2)}, {false, `\(a\)\1`, "xaa", 2, nil}, {false, `\(a\)\1`, "xaa", 4, nil}, {false, `\(a\)\1`, "xaa", -1, nil}, {true, "a*", "", 0, spans(0, 0)}, {true, "(a)|b", "b", 0, spans(0, 1, -1, -1)}, {true, "(x)?", "a", 1, spans(1, 1, -1, -1)},
+		{false, `\(a*\)b`, "xaab", 0, sample.Spans(1, 4, 1, 3)}, {false, `\(a*\)b`, "xaab", 4, nil}, {false, `\(a*\)b`, "xaab", 5, nil}, {false, `\(a*\)b`, "xaab", -1, nil}, {true, "(a|ab)(c|bcd)(d*)", "abcd", 0, sample.Spans(0, 4, 0, 2, 2, 3, 3, 4)},
+		{false, `\(a\)\1`, "xaa", 0, sample.Spans(1, 3, 1, 2)}, {false, `\(a\)\1`, "xaa", 2, nil}, {false, `\(a\)\1`, "xaa", 4, nil}, {false, `\(a\)\1`, "xaa", -1, nil}, {true, "a*", "", 0, sample.Spans(0, 0)}, {true, "(a)|b", "b", 0, sample.Spans(0, 1, -1, -1)}, {true, "(x)?", "a", 1, sample.Spans(1, 1, -1, -1)},
 	} {
 		got, ok := compiled(t, c.ere, c.re).Find([]byte(c.text), c.from)
 		if !slices.Equal(got, c.want) || ok != (c.want != nil) {
@@ -115,8 +99,8 @@ func TestAll(t *testing.T) {
 		re, text string
 		want     [][]api.Span
 	}{
-		{false, "x*", "axb", [][]api.Span{spans(0, 0), spans(1, 2), spans(3, 3)}}, {false, `\(a\)\1`, "aaaaa", [][]api.Span{spans(0, 2, 0, 1), spans(2, 4, 2, 3)}}, {false, "^a", "aaa", [][]api.Span{spans(0, 1)}}, {false, "$", "ab", [][]api.Span{spans(2, 2)}}, {false, "b*", "abc", [][]api.Span{spans(0, 0), spans(1, 2), spans(3, 3)}},
-		{false, "a*", "baaac", [][]api.Span{spans(0, 0), spans(1, 4), spans(5, 5)}}, {false, "x", "", nil}, {false, "x*", "", [][]api.Span{spans(0, 0)}}, {true, "(a)|b*", "ab", [][]api.Span{spans(0, 1, 0, 1), spans(1, 2, -1, -1)}},
+		{false, "x*", "axb", [][]api.Span{sample.Spans(0, 0), sample.Spans(1, 2), sample.Spans(3, 3)}}, {false, `\(a\)\1`, "aaaaa", [][]api.Span{sample.Spans(0, 2, 0, 1), sample.Spans(2, 4, 2, 3)}}, {false, "^a", "aaa", [][]api.Span{sample.Spans(0, 1)}}, {false, "$", "ab", [][]api.Span{sample.Spans(2, 2)}}, {false, "b*", "abc", [][]api.Span{sample.Spans(0, 0), sample.Spans(1, 2), sample.Spans(3, 3)}},
+		{false, "a*", "baaac", [][]api.Span{sample.Spans(0, 0), sample.Spans(1, 4), sample.Spans(5, 5)}}, {false, "x", "", nil}, {false, "x*", "", [][]api.Span{sample.Spans(0, 0)}}, {true, "(a)|b*", "ab", [][]api.Span{sample.Spans(0, 1, 0, 1), sample.Spans(1, 2, -1, -1)}},
 	} {
 		r := compiled(t, c.ere, c.re)
 		if got := all(r, c.text); !same(got, c.want) {
@@ -152,7 +136,7 @@ func TestBelow(t *testing.T) {
 		for range 1 + r.Intn(7) {
 			s += bits[r.Intn(len(bits))]
 		}
-		re, e, _ := syntax.Parse(false, signs(s))
+		re, e, _ := syntax.Parse(false, sample.Signs(s))
 		if e != api.OK {
 			continue
 		}
@@ -236,7 +220,7 @@ func TestSameAgain(t *testing.T) {
 	first[1] = api.Span{}
 	for range 3 {
 		r.Find([]byte(strings.Repeat("a", 500)), 0)
-		if got, _ := r.Find([]byte("xaab"), 0); !slices.Equal(got, spans(1, 4, 1, 3)) {
+		if got, _ := r.Find([]byte("xaab"), 0); !slices.Equal(got, sample.Spans(1, 4, 1, 3)) {
 			t.Error(got)
 		}
 	}

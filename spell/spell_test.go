@@ -8,27 +8,9 @@ import (
 
 	"galley/api"
 	"galley/class"
+	"galley/sample"
 	"galley/syntax"
 )
-
-func signs(s string) []api.Mark {
-	var l []api.Mark
-	for _, b := range []byte(s) {
-		l = append(l, api.Mark{Byte: b})
-	}
-	return l
-}
-
-func text(l []api.Mark) string {
-	var b []byte
-	for _, m := range l {
-		if m.Plain {
-			return "plain"
-		}
-		b = append(b, m.Byte)
-	}
-	return string(b)
-}
 
 func lit(s string) api.Node         { return api.Node{Op: api.OpSet, Set: class.Of([]byte(s)...)} }
 func cat(n int) api.Node            { return api.Node{Op: api.OpCat, Kids: n} }
@@ -52,10 +34,10 @@ func TestPrint(t *testing.T) {
 			l, e := Print(ere, re)
 			if want == "no" {
 				if e != api.ErrSpell || l != nil {
-					t.Errorf("%v %v: %s, %d", ere, re, text(l), e)
+					t.Errorf("%v %v: %s, %d", ere, re, sample.Text(l), e)
 				}
-			} else if text(l) != want || e != api.OK {
-				t.Errorf("%v: %q, not %q (%d)", ere, text(l), want, e)
+			} else if sample.Text(l) != want || e != api.OK {
+				t.Errorf("%v: %q, not %q (%d)", ere, sample.Text(l), want, e)
 			}
 		}
 	}
@@ -181,11 +163,11 @@ func TestBack(t *testing.T) {
 		spelled++
 		for _, m := range l {
 			if m.Plain || m.Byte == '\n' {
-				t.Fatalf("%q", text(l))
+				t.Fatalf("%q", sample.Text(l))
 			}
 		}
 		if back, e, _ := syntax.Parse(ere, l); e != api.OK || !slices.Equal(back, re) {
-			t.Fatalf("%q: %v", text(l), re)
+			t.Fatalf("%q: %v", sample.Text(l), re)
 		}
 	}
 	if spelled < 5000 {
@@ -199,7 +181,7 @@ func TestBack(t *testing.T) {
 			s += bits[r.Intn(len(bits))]
 		}
 		ere := r.Intn(2) == 0
-		re, e, _ := syntax.Parse(ere, signs(s))
+		re, e, _ := syntax.Parse(ere, sample.Signs(s))
 		if e != api.OK {
 			continue
 		}
@@ -207,7 +189,7 @@ func TestBack(t *testing.T) {
 		l, e := Print(ere, re)
 		back, e2, _ := syntax.Parse(ere, l)
 		if e != api.OK || e2 != api.OK || !slices.Equal(back, re) {
-			t.Fatalf("%q: %q, %d, %d", s, text(l), e, e2)
+			t.Fatalf("%q: %q, %d, %d", s, sample.Text(l), e, e2)
 		}
 	}
 	if parsed < 5000 {
@@ -225,9 +207,9 @@ func TestText(t *testing.T) {
 		want  string
 		ok    bool
 	}{
-		{signs("a/"), '/', "", false}, {signs("a/"), ',', "a/", true}, {join(signs("a"), []api.Mark{plain}, signs("b")), '/', `a\/b`, true}, {join(signs("a"), []api.Mark{plain}, signs("b")), ',', "", false},
-		{signs(`\`), '/', "", false}, {join(signs(`\`), []api.Mark{plain}), '/', "", false}, {signs(`\\n`), '/', `\\n`, true}, {signs(`\\n`), 'n', "", false}, {signs("a\n"), '/', "", false}, {signs("\\\n"), '/', "\\\n", true},
-		{nil, '/', "", true}, {nil, '\\', "", false}, {nil, '\n', "", false}, {signs(`\n`), 'n', "", false}, {signs(`\/`), '/', "", false}, {[]api.Mark{{Byte: '\\', Plain: true}}, '/', "", false}, {[]api.Mark{plain, plain}, '/', `\/\/`, true}, {signs(`\\\`), '/', "", false}, {signs(`\\`), '/', `\\`, true}, {signs("\x00\xff"), 0, "", false}, {signs("\xff"), 0, "\xff", true},
+		{sample.Signs("a/"), '/', "", false}, {sample.Signs("a/"), ',', "a/", true}, {join(sample.Signs("a"), []api.Mark{plain}, sample.Signs("b")), '/', `a\/b`, true}, {join(sample.Signs("a"), []api.Mark{plain}, sample.Signs("b")), ',', "", false},
+		{sample.Signs(`\`), '/', "", false}, {join(sample.Signs(`\`), []api.Mark{plain}), '/', "", false}, {sample.Signs(`\\n`), '/', `\\n`, true}, {sample.Signs(`\\n`), 'n', "", false}, {sample.Signs("a\n"), '/', "", false}, {sample.Signs("\\\n"), '/', "\\\n", true},
+		{nil, '/', "", true}, {nil, '\\', "", false}, {nil, '\n', "", false}, {sample.Signs(`\n`), 'n', "", false}, {sample.Signs(`\/`), '/', "", false}, {[]api.Mark{{Byte: '\\', Plain: true}}, '/', "", false}, {[]api.Mark{plain, plain}, '/', `\/\/`, true}, {sample.Signs(`\\\`), '/', "", false}, {sample.Signs(`\\`), '/', `\\`, true}, {sample.Signs("\x00\xff"), 0, "", false}, {sample.Signs("\xff"), 0, "\xff", true},
 	} {
 		b, ok := Text(c.l, c.delim)
 		if string(b) != c.want || ok != c.ok || !ok && b != nil {
@@ -283,7 +265,7 @@ func TestMemory(t *testing.T) {
 	re := tree(cat(2), lit("a"), lit("b"))
 	l, _ := Print(true, re)
 	l[0].Byte = 'x'
-	if m, _ := Print(true, re); text(m) != "ab" {
+	if m, _ := Print(true, re); sample.Text(m) != "ab" {
 		t.Error("shared")
 	}
 }

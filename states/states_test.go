@@ -12,22 +12,9 @@ import (
 	"galley/syntax"
 )
 
-func tree(t *testing.T, s string) []api.Node {
-	t.Helper()
-	var l []api.Mark
-	for _, b := range []byte(s) {
-		l = append(l, api.Mark{Byte: b})
-	}
-	re, e, _ := syntax.Parse(true, l)
-	if e != api.OK {
-		t.Fatalf("%s: %d", s, e)
-	}
-	return re
-}
-
 func made(t *testing.T, s string) api.Dfa {
 	t.Helper()
-	d, e := Make(tree(t, s))
+	d, e := Make(derive.Tree(true, s))
 	if e != api.OK {
 		t.Fatalf("%s: %d", s, e)
 	}
@@ -49,7 +36,7 @@ func TestMake(t *testing.T) {
 	}
 	one := func(s string, want api.Dfa) {
 		t.Helper()
-		d, e := Make(tree(t, s))
+		d, e := Make(derive.Tree(true, s))
 		check(s, d, e, want)
 	}
 	justA := api.Dfa{Atoms: a, Next: [][]int{{-1, 1}, {-1, -1}}, Ends: []bool{false, true}}
@@ -86,8 +73,8 @@ func TestMakeFaults(t *testing.T) {
 		want api.Errno
 	}{
 		{nil, api.ErrShape}, {[]api.Node{set, set}, api.ErrShape}, {[]api.Node{ref}, api.ErrShape}, {heavy, api.ErrRef}, {light, api.ErrRef},
-		{tree(t, "a{30}"), api.ErrWeight}, {tree(t, "a{19}"), api.OK}, {tree(t, "a{20}"), api.ErrWeight},
-		{tree(t, ".*a.{7}"), api.OK}, {tree(t, ".*a.{8}"), api.ErrStates}, {tree(t, ".*a.{15}"), api.ErrStates}, {tree(t, "(.*ab|c)*.{9}"), api.ErrStates}, {tree(t, "[a-m]*a[a-z]{14}"), api.ErrStates},
+		{derive.Tree(true, "a{30}"), api.ErrWeight}, {derive.Tree(true, "a{19}"), api.OK}, {derive.Tree(true, "a{20}"), api.ErrWeight},
+		{derive.Tree(true, ".*a.{7}"), api.OK}, {derive.Tree(true, ".*a.{8}"), api.ErrStates}, {derive.Tree(true, ".*a.{15}"), api.ErrStates}, {derive.Tree(true, "(.*ab|c)*.{9}"), api.ErrStates}, {derive.Tree(true, "[a-m]*a[a-z]{14}"), api.ErrStates},
 	} {
 		d, e := Make(c.re)
 		if e != c.want || e != api.OK && !reflect.DeepEqual(d, api.Dfa{}) {
@@ -312,7 +299,7 @@ func TestUnlike(t *testing.T) {
 
 // P9.4
 func TestMemory(t *testing.T) {
-	re := tree(t, "ab|b")
+	re := derive.Tree(true, "ab|b")
 	d, _ := Make(re)
 	want := made(t, "ab|b")
 	d.Next[0][0], d.Ends[0], d.Atoms[0] = 7, true, api.Class{}

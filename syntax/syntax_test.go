@@ -9,20 +9,8 @@ import (
 
 	"galley/api"
 	"galley/class"
+	"galley/sample"
 )
-
-// marks: the bytes of s as signs; behind a byte 1 a plain mark.
-func marks(s string) []api.Mark {
-	var l []api.Mark
-	for i := 0; i < len(s); i++ {
-		plain := s[i] == 1
-		if plain {
-			i++
-		}
-		l = append(l, api.Mark{Byte: s[i], Plain: plain})
-	}
-	return l
-}
 
 // lisp: a tree as the document's examples write it.
 func lisp(re []api.Node) string {
@@ -67,7 +55,7 @@ func lispAt(re []api.Node, i int) (string, int) {
 
 func parsed(t *testing.T, ere bool, in, want string) {
 	t.Helper()
-	re, e, at := Parse(ere, marks(in))
+	re, e, at := Parse(ere, sample.Marks(in))
 	if e != api.OK || at != 0 {
 		t.Errorf("%q: %d at %d", in, e, at)
 		return
@@ -79,7 +67,7 @@ func parsed(t *testing.T, ere bool, in, want string) {
 
 func refused(t *testing.T, ere bool, in string, err api.Errno, at int) {
 	t.Helper()
-	re, e, got := Parse(ere, marks(in))
+	re, e, got := Parse(ere, sample.Marks(in))
 	if e != err || got != at || re != nil {
 		t.Errorf("%q: %d at %d, not %d at %d", in, e, got, err, at)
 	}
@@ -98,21 +86,21 @@ func TestBasic(t *testing.T) {
 		parsed(t, false, in, want)
 	}
 	// The tree of an anchor and that of its byte are told alike above: they are parted here.
-	re, _, _ := Parse(false, marks("a^b$c"))
+	re, _, _ := Parse(false, sample.Marks("a^b$c"))
 	for _, n := range re[1:] {
 		if n.Op != api.OpSet {
 			t.Error("a^b$c has no anchor")
 		}
 	}
-	re, _, _ = Parse(false, marks(`\(^a$\)`))
+	re, _, _ = Parse(false, sample.Marks(`\(^a$\)`))
 	if re[2].Op != api.OpBegin || re[4].Op != api.OpEnd {
 		t.Error("anchors in a group")
 	}
-	re, _, _ = Parse(false, marks("^*$"))
+	re, _, _ = Parse(false, sample.Marks("^*$"))
 	if re[1].Op != api.OpBegin || re[2].Op != api.OpSet || re[3].Op != api.OpEnd {
 		t.Error("^*$")
 	}
-	re, _, _ = Parse(false, marks("\x01^\x01$"))
+	re, _, _ = Parse(false, sample.Marks("\x01^\x01$"))
 	if re[1].Op != api.OpSet || re[2].Op != api.OpSet {
 		t.Error("plain anchors")
 	}
@@ -164,19 +152,19 @@ func TestExtended(t *testing.T) {
 // P5.1: the limits.
 func TestLimits(t *testing.T) {
 	a := strings.Repeat("a", api.MaxRegex)
-	if re, e, _ := Parse(true, marks(a)); e != api.OK || len(re) != api.MaxRegex+1 {
+	if re, e, _ := Parse(true, sample.Marks(a)); e != api.OK || len(re) != api.MaxRegex+1 {
 		t.Error("MaxRegex")
 	}
 	refused(t, true, a+"a", api.ErrSpent, api.MaxRegex)
 	refused(t, false, a+`\`, api.ErrSpent, api.MaxRegex)
 	nest := func(n int) string { return strings.Repeat("(", n) + "a" + strings.Repeat(")", n) }
-	if _, e, _ := Parse(true, marks(nest(api.MaxNest))); e != api.OK {
+	if _, e, _ := Parse(true, sample.Marks(nest(api.MaxNest))); e != api.OK {
 		t.Error("MaxNest")
 	}
 	refused(t, true, nest(api.MaxNest+1), api.ErrNest, api.MaxNest)
 	refused(t, false, strings.Repeat(`\(`, api.MaxNest+1), api.ErrNest, 2*api.MaxNest)
 	groups := strings.Repeat("(a)", api.MaxGroups)
-	if re, e, _ := Parse(true, marks(groups)); e != api.OK || Groups(re) != api.MaxGroups {
+	if re, e, _ := Parse(true, sample.Marks(groups)); e != api.OK || Groups(re) != api.MaxGroups {
 		t.Error("MaxGroups")
 	}
 	refused(t, true, groups+"(", api.ErrGroups, 3*api.MaxGroups)
@@ -189,7 +177,7 @@ func TestLimits(t *testing.T) {
 	for range api.MaxNest {
 		s = "(" + s + "|bc)*|de"
 	}
-	if re, e, at := Parse(true, marks("a"+s)); e != api.OK || !Shaped(re) {
+	if re, e, at := Parse(true, sample.Marks("a"+s)); e != api.OK || !Shaped(re) {
 		t.Errorf("deep: %d at %d", e, at)
 	}
 }
@@ -197,16 +185,16 @@ func TestLimits(t *testing.T) {
 // P5.2
 func TestWeight(t *testing.T) {
 	for in, want := range map[string]int{"a": 1, "ab": 3, "a*": 2, "(a|b)": 4, "a{3}": 4, "a{0}": 2, "a{3,}": 5, "a+": 3, "a?": 2, "a{2,5}": 6, "(ab){2}": 9, "()": 2, "^": 1} {
-		re, _, _ := Parse(true, marks(in))
+		re, _, _ := Parse(true, sample.Marks(in))
 		if got := Weight(re); got != want {
 			t.Errorf("%s: %d, not %d", in, got, want)
 		}
 	}
-	re, _, _ := Parse(false, marks(`\(a\)b\1`))
+	re, _, _ := Parse(false, sample.Marks(`\(a\)b\1`))
 	if Weight(re) != 5 || Groups(re) != 1 || !Refs(re) || Behind(re, 0) != 5 || Behind(re, 1) != 3 || Behind(re, 2) != 3 || Behind(re, 4) != 5 || Behind(re, 5) != -1 || Behind(re, -1) != -1 {
 		t.Error("P5.2")
 	}
-	if re, _, _ := Parse(true, marks("(a)(b)")); Refs(re) || Groups(re) != 2 {
+	if re, _, _ := Parse(true, sample.Marks("(a)(b)")); Refs(re) || Groups(re) != 2 {
 		t.Error("P5.2")
 	}
 }
@@ -305,7 +293,7 @@ func TestFollows(t *testing.T) {
 	good := 0
 	for range 60000 {
 		ere := r.Intn(2) == 0
-		l, m := marks(some(r, ere)), marks(some(r, ere))
+		l, m := sample.Marks(some(r, ere)), sample.Marks(some(r, ere))
 		re, e, at := Parse(ere, l)
 		if at < 0 || at > len(l) {
 			t.Fatal("place")
@@ -352,7 +340,7 @@ func checkGrouped(t *testing.T, ere bool, l []api.Mark, re []api.Node) {
 	if ere {
 		open, end = "(", ")"
 	}
-	got, e, _ := Parse(ere, slices.Concat(marks(open), l, marks(end)))
+	got, e, _ := Parse(ere, slices.Concat(sample.Marks(open), l, sample.Marks(end)))
 	want := append([]api.Node{{Op: api.OpGroup, N: 1, Kids: 1}}, moved(re, 1)...)
 	if e != api.OK || !slices.Equal(got, want) {
 		t.Fatalf("%v: %s", l, lisp(re))
@@ -369,7 +357,7 @@ func checkSides(t *testing.T, l, m []api.Mark, re, re2 []api.Node) {
 	n, a := sides(re)
 	k, b := sides(moved(re2, Groups(re)))
 	want := slices.Concat([]api.Node{{Op: api.OpAlt, Kids: n + k}}, a, b)
-	got, e, _ := Parse(true, slices.Concat(l, marks("|"), m))
+	got, e, _ := Parse(true, slices.Concat(l, sample.Marks("|"), m))
 	if e != api.OK || !slices.Equal(got, want) {
 		t.Fatalf("%v %v", l, m)
 	}
@@ -377,11 +365,11 @@ func checkSides(t *testing.T, l, m []api.Mark, re, re2 []api.Node) {
 
 // P5.3
 func TestMemory(t *testing.T) {
-	l := append(make([]api.Mark, 0, 20), marks("(a|[b-c])*d")...)
+	l := append(make([]api.Mark, 0, 20), sample.Marks("(a|[b-c])*d")...)
 	re, _, _ := Parse(true, l)
 	re2, _, _ := Parse(true, l)
 	re[0].Op = 0
-	if lisp(re2) != "(cat (rep 0 -1 (group 1 (alt a set2))) d)" || !slices.Equal(l, marks("(a|[b-c])*d")) || l[:20][15] != (api.Mark{}) {
+	if lisp(re2) != "(cat (rep 0 -1 (group 1 (alt a set2))) d)" || !slices.Equal(l, sample.Marks("(a|[b-c])*d")) || l[:20][15] != (api.Mark{}) {
 		t.Error("memory")
 	}
 }

@@ -6,20 +6,8 @@ import (
 	"testing"
 
 	"galley/api"
+	"galley/sample"
 )
-
-// marks: the bytes of s as signs; behind a byte 1 a plain mark.
-func marks(s string) []api.Mark {
-	var l []api.Mark
-	for i := 0; i < len(s); i++ {
-		plain := s[i] == 1
-		if plain {
-			i++
-		}
-		l = append(l, api.Mark{Byte: s[i], Plain: plain})
-	}
-	return l
-}
 
 func made(t *testing.T, from, to string) api.Table {
 	t.Helper()
@@ -58,13 +46,13 @@ func TestNew(t *testing.T) {
 // P15.2
 func TestParse(t *testing.T) {
 	for _, c := range [][4]string{{`\n\\`, "x;", "\n\\", "x;"}, {"\x01\\", "x", `\`, "x"}, {"", "", "", ""}, {"ab", "\\n\x01n", "ab", "\nn"}, {"\x01/a", "b\x01/", "/a", "b/"}, {"\n", "a", "\n", "a"}, {`\\n`, "ab", `\n`, "ab"}} {
-		x, e := Parse(marks(c[0]), marks(c[1]))
+		x, e := Parse(sample.Marks(c[0]), sample.Marks(c[1]))
 		if e != api.OK || x != made(t, c[2], c[3]) {
 			t.Errorf("%q: %d", c, e)
 		}
 	}
 	for _, c := range [][2]string{{`\a`, "xy"}, {`\`, "x"}, {"a", `\`}, {"\\\x01n", "xy"}, {"\\\x01\\", "x"}, {"ab", "x"}, {"aa", "xy"}, {`\na`, "x"}, {`\n\n`, "xy"}, {`\nb`, "xyz"}, {"xy", `\a`}, {"\\\x01/", "ab"}} {
-		if x, e := Parse(marks(c[0]), marks(c[1])); e != api.ErrTable || x != (api.Table{}) {
+		if x, e := Parse(sample.Marks(c[0]), sample.Marks(c[1])); e != api.ErrTable || x != (api.Table{}) {
 			t.Errorf("%q: %d", c, e)
 		}
 	}

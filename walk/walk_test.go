@@ -6,20 +6,12 @@ import (
 
 	"galley/api"
 	"galley/derive"
-	"galley/syntax"
 )
 
 // Each call is held against all derivations, listed one by one.
 func TestWalks(t *testing.T) {
-	for _, s := range []string{"a", "ab", "a|b", "a*", "(a|ab)(b|)?"[:6] + "(ba)?", "(a*)*", "(a|b){2,3}", "^a", "a$|b", "(^|b)a*", "()", "a{0}", "(ab?)+", "(a*b){2,}", "$^"} {
-		var l []api.Mark
-		for _, b := range []byte(s) {
-			l = append(l, api.Mark{Byte: b})
-		}
-		re, e, _ := syntax.Parse(true, l)
-		if e != api.OK {
-			t.Fatalf("%s: %d", s, e)
-		}
+	for _, s := range []string{"a", "ab", "a|b", "a*", "(a|ab)(ba)?", "(a*)*", "(a|b){2,3}", "^a", "a$|b", "(^|b)a*", "()", "a{0}", "(ab?)+", "(a*b){2,}", "$^"} {
+		re := derive.Tree(true, s)
 		tree := New(re)
 		for _, text := range []string{"", "a", "ab", "aab", "abab", "bbaa"} {
 			check(t, tree, re, []byte(text))

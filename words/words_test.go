@@ -8,20 +8,8 @@ import (
 	"testing"
 
 	"galley/api"
+	"galley/sample"
 )
-
-// marks: the bytes of s as signs; behind a byte 1 a plain mark.
-func marks(s string) []api.Mark {
-	var l []api.Mark
-	for i := 0; i < len(s); i++ {
-		plain := s[i] == 1
-		if plain {
-			i++
-		}
-		l = append(l, api.Mark{Byte: s[i], Plain: plain})
-	}
-	return l
-}
 
 // P19.1, P19.2, P19.4
 func TestNumber(t *testing.T) {
@@ -114,7 +102,7 @@ func TestPart(t *testing.T) {
 	} {
 		w := New([]byte(c.text))
 		l, e := w.Part(c.delim, c.ends)
-		if !slices.Equal(l, marks(c.want)) || e != api.OK || w.At() != c.at {
+		if !slices.Equal(l, sample.Marks(c.want)) || e != api.OK || w.At() != c.at {
 			t.Errorf("%q: %v %d at %d", c.text, l, e, w.At())
 		}
 	}
