@@ -27,13 +27,13 @@ func (s *search) farthest(from int) int {
 // best: the captures of the best derivation at a span at which there is one.
 func (s *search) best(span api.Span) []api.Span {
 	s.low, s.rests = span.From, map[ahead][]walk.Set{}
-	visits := s.explore(s.begin(span.From, span.To), func(int) bool { return true })
+	s.explore(s.begin(span.From, span.To), func(int) bool { return true })
 	if s.spent {
 		return nil
 	}
 	var way []state
-	for i := len(visits) - 1; i >= 0; i = visits[i].from {
-		way = append(way, visits[i].state)
+	for i := len(s.visits) - 1; i >= 0; i = s.visits[i].from {
+		way = append(way, s.visits[i].state)
 	}
 	slices.Reverse(way)
 	return s.captures(way)
@@ -41,35 +41,33 @@ func (s *search) best(span api.Span) []api.Span {
 
 // explore goes from state to state, the better ones first, up to a place at which nothing is to do any more and met is done.
 // A state that was come to before has failed, or has told its places already: it is not gone through again.
-func (s *search) explore(from state, met func(place int) bool) []visit {
-	seen := map[state]int{}
-	var visits []visit
-	stack := []visit{{from, -1}}
-	for len(stack) > 0 {
-		v := stack[len(stack)-1]
-		stack = stack[:len(stack)-1]
-		if _, was := seen[v.state]; was {
+func (s *search) explore(from state, met func(place int) bool) {
+	clear(s.seen)
+	s.visits, s.stack = s.visits[:0], append(s.stack[:0], visit{from, -1})
+	for len(s.stack) > 0 {
+		v := s.stack[len(s.stack)-1]
+		s.stack = s.stack[:len(s.stack)-1]
+		if _, was := s.seen[v.state]; was {
 			continue
 		}
 		if s.fuel == 0 {
 			s.spent = true
-			return nil
+			return
 		}
 		s.fuel--
-		seen[v.state] = len(visits)
-		visits = append(visits, v)
+		s.seen[v.state] = len(s.visits)
+		s.visits = append(s.visits, v)
 		if v.todo == done {
 			if met(v.place) {
-				return visits
+				return
 			}
 			continue
 		}
 		ways := s.ways(v.state)
 		for i := len(ways) - 1; i >= 0; i-- {
-			stack = append(stack, visit{ways[i], seen[v.state]})
+			s.stack = append(s.stack, visit{ways[i], len(s.visits) - 1})
 		}
 	}
-	return visits
 }
 
 // ways: the states that come next, the better ones first.

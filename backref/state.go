@@ -8,7 +8,7 @@ import (
 )
 
 // held: of so many referred groups what they have taken stands in the state itself.
-const held = 9
+const held = 3
 
 // state: what is still to do, at which place, and what the referred groups have taken there.
 type state struct {
@@ -59,6 +59,9 @@ type search struct {
 	low     int
 	fuel    int64
 	spent   bool
+	seen    map[state]int // of each state that was come to, which visit it was
+	visits  []visit
+	stack   []visit
 }
 
 // link: a row of spans that goes on with one more.
@@ -75,7 +78,7 @@ var none = api.Span{From: -1, To: -1}
 func newSearch(re []api.Node, text []byte, fuel int64) *search {
 	n := len(re)
 	s := &search{Tree: walk.New(re), text: text, free: make([]bool, n), first: make([]int, n), behind: make([]int, n), of: referred(re), fuel: fuel}
-	s.tasks, s.numbers = []task{{}}, map[task]int{}
+	s.tasks, s.numbers, s.seen = []task{{}}, map[task]int{}, map[state]int{}
 	s.rows, s.links = [][]api.Span{nil}, map[link]int{}
 	groups := 0
 	for i, x := range re {
