@@ -140,7 +140,7 @@ func TestExtended(t *testing.T) {
 		at  int
 	}{
 		{"", api.ErrEmpty, 0}, {"(|a)", api.ErrEmpty, 1}, {"a||b", api.ErrEmpty, 2}, {"a|", api.ErrEmpty, 2}, {"(a|", api.ErrEmpty, 3}, {"a|)", api.ErrParen, 2}, {"^*", api.ErrRepeat, 1}, {"a{,2}", api.ErrCount, 1}, {"a{256}", api.ErrCount, 1}, {")", api.ErrParen, 0}, {`\1`, api.ErrEscape, 0},
-		{"|", api.ErrEmpty, 0}, {"|a", api.ErrEmpty, 0}, {"(a|)", api.ErrEmpty, 3}, {"(|)", api.ErrEmpty, 1}, {"(", api.ErrParen, 0}, {"((", api.ErrParen, 1}, {"(()", api.ErrParen, 0}, {"(()|", api.ErrEmpty, 4}, {"a)", api.ErrParen, 1}, {"|)", api.ErrEmpty, 0}, {"()|)", api.ErrParen, 3}, {"(a|b", api.ErrParen, 0},
+		{"|", api.ErrEmpty, 0}, {"|a", api.ErrEmpty, 0}, {"(a|)", api.ErrEmpty, 3}, {"(|)", api.ErrEmpty, 1}, {"(", api.ErrEmpty, 1}, {"a((", api.ErrEmpty, 3}, {"(()", api.ErrParen, 0}, {"(a", api.ErrParen, 0}, {"((a", api.ErrParen, 1}, {"(()|", api.ErrEmpty, 4}, {"a)", api.ErrParen, 1}, {"|)", api.ErrEmpty, 0}, {"()|)", api.ErrParen, 3}, {"(a|b", api.ErrParen, 0},
 		{"*", api.ErrRepeat, 0}, {"+", api.ErrRepeat, 0}, {"?a", api.ErrRepeat, 0}, {"{1}", api.ErrRepeat, 0}, {"a|*b", api.ErrRepeat, 2}, {"(*a)", api.ErrRepeat, 1}, {"a**", api.ErrRepeat, 2}, {"a+?", api.ErrRepeat, 2}, {"a{2}{3}", api.ErrRepeat, 4}, {"$*", api.ErrRepeat, 1}, {"a$+", api.ErrRepeat, 2},
 		{`\`, api.ErrEscape, 0}, {`\a`, api.ErrEscape, 0}, {"\\\x01.", api.ErrEscape, 0}, {`(a)\1`, api.ErrEscape, 3}, {"a{", api.ErrCount, 1}, {"a{2", api.ErrCount, 1}, {"a{2,", api.ErrCount, 1}, {"a{2,1}", api.ErrCount, 1}, {"a{x}", api.ErrCount, 1}, {"a{1,2", api.ErrCount, 1}, {"a{}", api.ErrCount, 1},
 		{"[", api.ErrBrack, 0}, {"a|[b-a]", api.ErrRange, 3},
