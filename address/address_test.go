@@ -48,6 +48,12 @@ func TestParse(t *testing.T) {
 			t.Errorf("%q: %v %d at %d", c.text, a, e, w.At())
 		}
 	}
+	for text, want := range map[string]api.Errno{"/(/": api.ErrParen, `\;(;`: api.ErrParen, "/a|(/": api.ErrParen, "/(a|/": api.ErrEmpty, "/)/": api.ErrParen} {
+		w := words.New([]byte(text + "p"))
+		if a, e := Parse(w, true); !reflect.DeepEqual(a, api.Addr{}) || e != want || w.At() != len(text) {
+			t.Errorf("%q: %v %d at %d", text, a, e, w.At())
+		}
+	}
 	for _, w := range []*words.Words{nil, {}} {
 		if a, e := Parse(w, false); !reflect.DeepEqual(a, api.Addr{}) || e != api.ErrArg {
 			t.Error("none")

@@ -92,6 +92,21 @@ func TestFaults(t *testing.T) {
 	}
 }
 
+// P21.2: the faults of extended regexes.
+func TestExtendedFaults(t *testing.T) {
+	for _, c := range []struct {
+		in  string
+		err api.Errno
+		at  int
+	}{
+		{`\;(;`, api.ErrParen, 0}, {"/(/p", api.ErrParen, 0}, {"p;1,/((/p", api.ErrParen, 4}, {"p;s/a|(/b/", api.ErrParen, 2}, {"p;s/(a|/b/", api.ErrEmpty, 2}, {"/a|/p", api.ErrEmpty, 0}, {"/a)/p", api.ErrParen, 0},
+	} {
+		if l, quiet, e, at := Parse([]byte(c.in), true); l != nil || quiet || e != c.err || at != c.at {
+			t.Errorf("%q: %d at %d, not %d at %d", c.in, e, at, c.err, c.at)
+		}
+	}
+}
+
 // P21.1, P21.2: the limits.
 func TestLimits(t *testing.T) {
 	if _, _, e, at := Parse([]byte(strings.Repeat("p;", api.MaxCmds)+"#"+strings.Repeat("x", api.MaxScript)), false); e != api.ErrSpent || at != api.MaxScript {

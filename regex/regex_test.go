@@ -45,7 +45,7 @@ func TestCompile(t *testing.T) {
 		s   string
 		err api.Errno
 		at  int
-	}{{false, `a\{2`, api.ErrCount, 1}, {false, `\(a`, api.ErrParen, 0}, {false, "", api.ErrEmpty, 0}, {true, "a|", api.ErrEmpty, 2}, {true, "(a{255}){64}", api.ErrWeight, 12}, {false, "x[", api.ErrBrack, 1}, {true, strings.Repeat("a", api.MaxRegex+1), api.ErrSpent, api.MaxRegex}} {
+	}{{false, `a\{2`, api.ErrCount, 1}, {false, `\(a`, api.ErrParen, 0}, {false, "", api.ErrEmpty, 0}, {true, "a|", api.ErrEmpty, 2}, {true, "(", api.ErrParen, 0}, {true, "a|(", api.ErrParen, 2}, {true, "(a|", api.ErrEmpty, 3}, {true, "(a{255}){64}", api.ErrWeight, 12}, {false, "x[", api.ErrBrack, 1}, {true, strings.Repeat("a", api.MaxRegex+1), api.ErrSpent, api.MaxRegex}} {
 		if r, e, at := Compile(c.ere, sample.Signs(c.s)); r != nil || e != c.err || at != c.at {
 			t.Errorf("%s: %d at %d", c.s, e, at)
 		}

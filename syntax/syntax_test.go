@@ -140,12 +140,65 @@ func TestExtended(t *testing.T) {
 		at  int
 	}{
 		{"", api.ErrEmpty, 0}, {"(|a)", api.ErrEmpty, 1}, {"a||b", api.ErrEmpty, 2}, {"a|", api.ErrEmpty, 2}, {"(a|", api.ErrEmpty, 3}, {"a|)", api.ErrParen, 2}, {"^*", api.ErrRepeat, 1}, {"a{,2}", api.ErrCount, 1}, {"a{256}", api.ErrCount, 1}, {")", api.ErrParen, 0}, {`\1`, api.ErrEscape, 0},
-		{"|", api.ErrEmpty, 0}, {"|a", api.ErrEmpty, 0}, {"(a|)", api.ErrEmpty, 3}, {"(|)", api.ErrEmpty, 1}, {"(", api.ErrEmpty, 1}, {"a((", api.ErrEmpty, 3}, {"(()", api.ErrParen, 0}, {"(a", api.ErrParen, 0}, {"((a", api.ErrParen, 1}, {"(()|", api.ErrEmpty, 4}, {"a)", api.ErrParen, 1}, {"|)", api.ErrEmpty, 0}, {"()|)", api.ErrParen, 3}, {"(a|b", api.ErrParen, 0},
+		{"|", api.ErrEmpty, 0}, {"|a", api.ErrEmpty, 0}, {"(a|)", api.ErrEmpty, 3}, {"(|)", api.ErrEmpty, 1}, {"(", api.ErrParen, 0}, {"((", api.ErrParen, 1}, {"a((", api.ErrParen, 2}, {"a|(", api.ErrParen, 2}, {"()(", api.ErrParen, 2}, {"(a|(", api.ErrParen, 3}, {"(|", api.ErrEmpty, 1}, {"((|", api.ErrEmpty, 2}, {"()|", api.ErrEmpty, 3}, {"(()", api.ErrParen, 0}, {"(a", api.ErrParen, 0}, {"((a", api.ErrParen, 1}, {"(()|", api.ErrEmpty, 4}, {"a)", api.ErrParen, 1}, {"|)", api.ErrEmpty, 0}, {"()|)", api.ErrParen, 3}, {"(a|b", api.ErrParen, 0},
 		{"*", api.ErrRepeat, 0}, {"+", api.ErrRepeat, 0}, {"?a", api.ErrRepeat, 0}, {"{1}", api.ErrRepeat, 0}, {"a|*b", api.ErrRepeat, 2}, {"(*a)", api.ErrRepeat, 1}, {"a**", api.ErrRepeat, 2}, {"a+?", api.ErrRepeat, 2}, {"a{2}{3}", api.ErrRepeat, 4}, {"$*", api.ErrRepeat, 1}, {"a$+", api.ErrRepeat, 2},
 		{`\`, api.ErrEscape, 0}, {`\a`, api.ErrEscape, 0}, {"\\\x01.", api.ErrEscape, 0}, {`(a)\1`, api.ErrEscape, 3}, {"a{", api.ErrCount, 1}, {"a{2", api.ErrCount, 1}, {"a{2,", api.ErrCount, 1}, {"a{2,1}", api.ErrCount, 1}, {"a{x}", api.ErrCount, 1}, {"a{1,2", api.ErrCount, 1}, {"a{}", api.ErrCount, 1},
 		{"[", api.ErrBrack, 0}, {"a|[b-a]", api.ErrRange, 3},
 	} {
 		refused(t, true, c.in, c.err, c.at)
+	}
+}
+
+// sided: the fault of an extended regex of a, (, ) and |, and its place, told by hand: of each group that is open its place, its bars and the parts of its last side.
+func sided(s string) (api.Errno, int) {
+	type group struct{ at, bars, parts int }
+	all := []group{{at: -1}}
+	for i := range len(s) {
+		g := &all[len(all)-1]
+		switch s[i] {
+		case 'a':
+			g.parts++
+		case '(':
+			g.parts++
+			all = append(all, group{at: i})
+		case '|':
+			if g.parts == 0 {
+				return api.ErrEmpty, i
+			}
+			g.bars++
+			g.parts = 0
+		case ')':
+			if len(all) == 1 {
+				return api.ErrParen, i
+			}
+			if g.parts == 0 && g.bars > 0 {
+				return api.ErrEmpty, i
+			}
+			all = all[:len(all)-1]
+		}
+	}
+	g := all[len(all)-1]
+	if g.parts == 0 && (g.bars > 0 || g.at < 0) {
+		return api.ErrEmpty, len(s)
+	}
+	if g.at >= 0 {
+		return api.ErrParen, g.at
+	}
+	return api.OK, 0
+}
+
+// P5.1: ErrParen and ErrEmpty, held against a reading by hand.
+func TestSides(t *testing.T) {
+	rows := []string{""}
+	for n := 0; n < len(rows); n++ {
+		s := rows[n]
+		want, place := sided(s)
+		if re, e, at := Parse(true, sample.Marks(s)); e != want || at != place || (re != nil) != (want == api.OK) {
+			t.Errorf("%q: %d at %d, not %d at %d", s, e, at, want, place)
+		}
+		if len(s) < 7 {
+			rows = append(rows, s+"a", s+"(", s+")", s+"|")
+		}
 	}
 }
 
